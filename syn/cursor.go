@@ -3,6 +3,7 @@ package syn
 import (
 	"yieldshape/api"
 	"yieldshape/lex"
+	"yieldshape/throw"
 )
 
 // cursor stands ahead of one of the tokens of a text, or behind them all.
@@ -55,5 +56,5 @@ func (c *cursor) name() string {
 
 // fail throws a fault at what comes next.
 func (c *cursor) fail(err api.Errno) {
-	panic(api.Fault{Err: err, At: c.peek().At})
+	throw.Fault(err, c.peek().At)
 }

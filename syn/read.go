@@ -3,6 +3,7 @@ package syn
 import (
 	"yieldshape/api"
 	"yieldshape/lex"
+	"yieldshape/throw"
 )
 
 // Read answers the program that text is (promises B1, B2), or the first error that is met in it (promise B3).
@@ -12,7 +13,7 @@ func Read(text string) (out []api.Def, f api.Fault) {
 		return nil, f
 	}
 	r := reader{cursor: cursor{tokens: tokens, end: len(text)}, pairs: pairsByText()}
-	f = caught(func() { out = r.program() })
+	f = throw.Caught(func() { out = r.program() })
 	if f.Err != api.OK {
 		return nil, f
 	}

@@ -3,6 +3,7 @@ package syn
 import (
 	"yieldshape/api"
 	"yieldshape/lex"
+	"yieldshape/throw"
 )
 
 // mostNumber is the greatest number of MaxDigits digits.
@@ -10,7 +11,7 @@ const mostNumber = 999_999_999_999_999
 
 // Wrong answers what is wrong with a program, and in which definition (promise B4).
 func Wrong(l []api.Def) api.Fault {
-	return caught(func() {
+	return throw.Caught(func() {
 		var c checker
 		c.atMost(len(l), api.MaxDefs)
 		for i, d := range l {
@@ -27,7 +28,7 @@ type checker struct {
 }
 
 func (c *checker) fail(err api.Errno) {
-	panic(api.Fault{Err: err, At: c.number})
+	throw.Fault(err, c.number)
 }
 
 // node counts a node ahead of anything else that is asked of it: so it ends even if what it is given goes round in itself.
