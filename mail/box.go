@@ -57,8 +57,8 @@ func (b *Box) Take() int64 {
 	return v
 }
 
-// words are copied in their order: where they lie in the ring is nobody's to see.
-func (b *Box) words() []int64 {
+// Words answers those that are in the box, the first one first. They are copied: where they lie in the ring is nobody's to see.
+func (b *Box) Words() []int64 {
 	var out []int64
 	for i := range b.count {
 		out = append(out, b.cells[b.cell(i)])

@@ -2,6 +2,7 @@ package mail_test
 
 import (
 	"math"
+	"slices"
 	"testing"
 
 	"yieldshape/api"
@@ -51,6 +52,38 @@ func TestBox(t *testing.T) {
 		}
 		if v := b.Take(); v != 0 || !b.Empty() {
 			t.Fatalf("%d places: %d comes out of an empty box", places, v)
+		}
+	}
+}
+
+// TestWords: those that are in the box, wherever they lie in it; whoever changes them changes nothing in it.
+func TestWords(t *testing.T) {
+	for places := 1; places <= api.MaxCap; places++ {
+		b, _ := mail.New(places)
+		var want []int64
+		for i := range int64(5 * places) {
+			if len(want) == places {
+				b.Take()
+				want = want[1:]
+			}
+			b.Put(i)
+			want = append(want, i)
+			for range 2 {
+				l := b.Words()
+				if !slices.Equal(l, want) {
+					t.Fatalf("%d places: %v is in the box; want %v", places, l, want)
+				}
+				clear(l[:cap(l)])
+			}
+		}
+		for !b.Empty() {
+			if v := b.Take(); v != want[0] {
+				t.Fatalf("%d places: %d is taken; want %d", places, v, want[0])
+			}
+			want = want[1:]
+		}
+		if l := b.Words(); len(l) > 0 {
+			t.Fatalf("%d places: %v is in an empty box", places, l)
 		}
 	}
 }

@@ -3,7 +3,7 @@ package vm
 import "yieldshape/api"
 
 // step does the next instruction of a task that is Ready (promise I2).
-func (t *task) step() {
+func (t *Task) step() {
 	h := t.hand
 	c := h.next()
 	w := h.inner()
@@ -30,25 +30,44 @@ func (t *task) step() {
 			w.next = c.A
 		}
 	case api.OpSend:
-		t.boxes[c.A].Put(h.take())
+		t.send(c.A)
 	case api.OpRecv:
-		t.put(t.boxes[c.A].Take())
+		t.recv(c.A)
 	case api.OpOut:
-		t.out = append(t.out, h.take())
+		t.putOut()
 	default:
 		t.speak(c)
 	}
 }
 
+func (t *Task) send(box int) {
+	v := t.hand.take()
+	t.boxes[box].Put(v)
+	t.hear(api.Event{Kind: api.EvSend, Box: box, V: v})
+}
+
+// recv is heard ahead of the trap that there may be no room for the word: it is taken nevertheless.
+func (t *Task) recv(box int) {
+	v := t.boxes[box].Take()
+	t.hear(api.Event{Kind: api.EvRecv, Box: box, V: v})
+	t.put(v)
+}
+
+func (t *Task) putOut() {
+	v := t.hand.take()
+	t.out = append(t.out, v)
+	t.hear(api.Event{Kind: api.EvOut, V: v})
+}
+
 // speak does what units and threads have to do with each other; what is left reckons with two words.
-func (t *task) speak(c api.Instr) {
+func (t *Task) speak(c api.Instr) {
 	switch c.Op {
 	case api.OpCall:
-		t.call(t.Units[c.A])
+		t.call(t.units[c.A])
 	case api.OpRet:
 		t.ret()
 	case api.OpStart:
-		t.start(t.Units[c.A])
+		t.start(c.A)
 	case api.OpResume:
 		t.resume()
 	case api.OpYield:
@@ -63,7 +82,7 @@ func (t *task) speak(c api.Instr) {
 	}
 }
 
-func (t *task) reckon(op int) {
+func (t *Task) reckon(op int) {
 	second := t.hand.take()
 	first := t.hand.take()
 	if second == 0 && (op == api.OpDiv || op == api.OpMod) {
@@ -74,30 +93,33 @@ func (t *task) reckon(op int) {
 }
 
 // call: the parameters lie on top already, and become the unit's first locals (promise I3).
-func (t *task) call(u api.Unit) {
+func (t *Task) call(u api.Unit) {
 	if len(t.hand.units) == api.MaxFrames || !t.hand.enter(u) {
 		t.fall(api.TrapStack)
 	}
 }
 
-func (t *task) ret() {
+func (t *Task) ret() {
 	v := t.hand.take()
 	t.hand.leave()
 	t.put(v)
 }
 
-// start: those that are at their end count too, and so does not the task's own thread.
-func (t *task) start(u api.Unit) {
+// start: those that are at their end count too, the task's own thread doesn't.
+// It is heard ahead of the trap that there may be no room for what was started.
+func (t *Task) start(unit int) {
+	u := t.units[unit]
 	params := t.hand.takeList(u.Params)
 	if len(t.threads)-1 == api.MaxCos {
 		t.fall(api.TrapMany)
 		return
 	}
 	t.threads = append(t.threads, newThread(u, params))
+	t.hear(api.Event{Kind: api.EvStart, V: int64(unit)})
 	t.put(int64(len(t.threads) - 1))
 }
 
-func (t *task) resume() {
+func (t *Task) resume() {
 	passed := t.hand.take()
 	h := t.threads[t.hand.take()]
 	switch h.stands {
@@ -117,16 +139,17 @@ func (t *task) resume() {
 }
 
 // end: a generator's end is nought to whoever has resumed it.
-func (t *task) end() {
+func (t *Task) end() {
 	if t.hand == t.threads[0] {
 		t.over = api.Done
+		t.hear(api.Event{Kind: api.EvDone})
 		return
 	}
 	t.giveBack(ended, 0)
 }
 
 // giveBack lets the thread at hand stand like that, and its resumer go on with a word.
-func (t *task) giveBack(stands int, v int64) {
+func (t *Task) giveBack(stands int, v int64) {
 	t.hand.stands = stands
 	t.hand = t.hand.resumer
 	t.put(v)

@@ -1,11 +1,16 @@
 package vm
 
-import "yieldshape/api"
+import (
+	"slices"
 
-// task goes on step by step, in a module that Verify lets through (promise I1).
-type task struct {
-	api.Module
+	"yieldshape/api"
+)
+
+// Task goes on step by step, in a module that Verify lets through (promise I1).
+type Task struct {
+	units   []api.Unit
 	boxes   []Box
+	hear    func(api.Event)
 	threads []*thread // its own, then those of generators, as they were started: what was started is, as a word, its place here
 	hand    *thread   // the one that is at hand
 	out     []int64
@@ -13,15 +18,44 @@ type task struct {
 	trap    int
 }
 
-// newTask answers the task of a unit, ahead of its first instruction.
-func newTask(m api.Module, unit int, boxes []Box) *task {
+// NewTasks answers the tasks of a module that Verify lets through, in order, ahead of their first instructions; boxes are one for each of the module's.
+func NewTasks(m api.Module, boxes []Box) []*Task {
+	var l []*Task
+	for _, unit := range tasks(m) {
+		l = append(l, newTask(m, unit, boxes))
+	}
+	return l
+}
+
+// tasks answers which units are tasks, in order.
+func tasks(m api.Module) []int {
+	var l []int
+	for n, u := range m.Units {
+		if u.Kind == api.DTask {
+			l = append(l, n)
+		}
+	}
+	return l
+}
+
+// newTask answers the task of a unit, whom nobody hears.
+func newTask(m api.Module, unit int, boxes []Box) *Task {
 	own := newThread(m.Units[unit], nil)
 	own.stands = going
-	return &task{Module: m, boxes: boxes, threads: []*thread{own}, hand: own}
+	return &Task{units: m.Units, boxes: boxes, hear: func(api.Event) {}, threads: []*thread{own}, hand: own}
+}
+
+// Hear lets hear be called with each thing that the task does from now on; the event's Task is 0, for a task doesn't know its number.
+func (t *Task) Hear(hear func(api.Event)) { t.hear = hear }
+
+// End answers how the task stands, and what it has put out.
+func (t *Task) End() api.End {
+	state, box := t.state()
+	return api.End{State: state, Box: box, Trap: t.trap, Out: slices.Clone(t.out)}
 }
 
 // state answers how the task stands, and with which box (promise I2).
-func (t *task) state() (state, box int) {
+func (t *Task) state() (state, box int) {
 	if t.over != 0 {
 		return t.over, 0
 	}
@@ -35,28 +69,32 @@ func (t *task) state() (state, box int) {
 	return api.Ready, 0
 }
 
-func (t *task) ready() bool {
+// Ready tells whether the task may go on.
+func (t *Task) Ready() bool {
 	state, _ := t.state()
 	return state == api.Ready
 }
 
-// run takes up to most steps, as long as the task is Ready, and answers how many it took.
-func (t *task) run(most int) int {
+// Run takes up to most steps, as long as the task is Ready, and answers how many it took.
+func (t *Task) Run(most int) int {
 	steps := 0
-	for steps < most && t.ready() {
+	for steps < most && t.Ready() {
 		t.step()
 		steps++
 	}
 	return steps
 }
 
-func (t *task) fall(trap int) { t.over, t.trap = api.Trapped, trap }
+func (t *Task) fall(trap int) {
+	t.over, t.trap = api.Trapped, trap
+	t.hear(api.Event{Kind: api.EvTrap, V: int64(trap)})
+}
 
 // put lays a word on top of the thread that is at hand.
-func (t *task) put(v int64) {
+func (t *Task) put(v int64) {
 	if t.hand.Push(v) != api.OK {
 		t.fall(api.TrapStack)
 	}
 }
 
-func (t *task) putTruth(is bool) { t.put(truthWord(is)) }
+func (t *Task) putTruth(is bool) { t.put(truthWord(is)) }
