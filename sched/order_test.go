@@ -21,21 +21,20 @@ func tellers(rounds ...int) api.Module {
 	return m
 }
 
-// order answers which tasks put something out, one after the other, from the end of the picks on.
+// order answers which tasks put something out, one after the other.
 func order(m api.Module, picks []api.Pick, quantum int) []int {
 	w := newWorld(m)
-	w.follow(picks)
 	var l []int
 	w.hear(func(e api.Event) {
 		if e.Kind == api.EvOut {
 			l = append(l, e.Task)
 		}
 	})
-	w.settle(quantum)
+	w.settle(picks, quantum)
 	return l
 }
 
-// TestJ2Order: by turns, behind the one that was last picked and not refused. No answer tells it, for where all comes to rest the end is the same; so it is heard here.
+// TestJ2Order: the picks, then by turns, behind the one that was last picked and not refused. No answer tells it, for where all comes to rest the end is the same; so it is heard here.
 func TestJ2Order(t *testing.T) {
 	three := tellers(2, 2, 2)
 	pick := func(task, quantum int) api.Pick { return api.Pick{Task: task, Quantum: quantum} }
@@ -55,12 +54,12 @@ func TestJ2Order(t *testing.T) {
 		// Those that are refused don't count.
 		{three, []api.Pick{pick(0, 1), pick(1, 0), pick(2, 10001), pick(3, 1), pick(-1, 1)}, 4, []int{1, 1, 2, 2, 0, 0}},
 		{three, []api.Pick{pick(1, 0), pick(5, 1)}, 4, []int{0, 0, 1, 1, 2, 2}},
-		{three, []api.Pick{pick(2, 5), pick(0, 1), pick(2, 1)}, 4, []int{1, 1, 0, 0}},
+		{three, []api.Pick{pick(2, 5), pick(0, 1), pick(2, 1)}, 4, []int{2, 2, 1, 1, 0, 0}},
 		// Whoever is done is left out; the last one itself follows, if there is no other one.
 		{tellers(1, 3, 0, 2), nil, 2, []int{0, 1, 3, 1, 3, 1}},
 		{tellers(1, 3, 0, 2), []api.Pick{pick(2, 9)}, 2, []int{3, 0, 1, 3, 1, 1}},
 		{tellers(0, 0, 3), nil, 2, []int{2, 2, 2}},
-		{tellers(4), []api.Pick{pick(0, 2)}, 1, []int{0, 0, 0}},
+		{tellers(4), []api.Pick{pick(0, 2)}, 1, []int{0, 0, 0, 0}},
 	} {
 		if got := order(c.m, c.picks, c.quantum); !slices.Equal(got, c.want) {
 			t.Errorf("%d tasks, %v, then by %d: %v; want %v", len(c.m.Units), c.picks, c.quantum, got, c.want)

@@ -71,8 +71,9 @@ func (w *world) refusal(p api.Pick) api.Errno {
 	return api.OK
 }
 
-// settle picks whoever is Ready, by turns, until nobody is: ErrSteps, if that takes too many.
-func (w *world) settle(quantum int) api.Errno {
+// settle does the picks, then picks whoever is Ready, by turns, until nobody is: ErrSteps, if that takes too many.
+func (w *world) settle(picks []api.Pick, quantum int) api.Errno {
+	w.follow(picks)
 	for n := w.following(); n >= 0; n = w.following() {
 		if did := w.pick(api.Pick{Task: n, Quantum: quantum}); did.Err != api.OK {
 			return did.Err
