@@ -2,22 +2,25 @@ package vm
 
 import "yieldshape/api"
 
-// reckoned answers what comes of two words, from OpAdd to OpOr; second isn't 0, if it divides.
+// Reckon answers what comes of two words, from OpAdd to OpOr; or, if that is none (0 divides), the trap.
 // The least number divided by -1 is itself, rest 0: so it is in the language too.
-func reckoned(op int, first, second int64) int64 {
+func Reckon(op int, first, second int64) (v int64, trap int) {
+	if second == 0 && (op == api.OpDiv || op == api.OpMod) {
+		return 0, api.TrapZero
+	}
 	switch op {
 	case api.OpAdd:
-		return first + second
+		return first + second, 0
 	case api.OpSub:
-		return first - second
+		return first - second, 0
 	case api.OpMul:
-		return first * second
+		return first * second, 0
 	case api.OpDiv:
-		return first / second
+		return first / second, 0
 	case api.OpMod:
-		return first % second
+		return first % second, 0
 	}
-	return truthWord(holds(op, first, second))
+	return truthWord(holds(op, first, second)), 0
 }
 
 // holds answers the truth that comes of two words, from OpEq to OpOr; truths are words, too.

@@ -85,11 +85,12 @@ func (t *Task) speak(c api.Instr) {
 func (t *Task) reckon(op int) {
 	second := t.hand.take()
 	first := t.hand.take()
-	if second == 0 && (op == api.OpDiv || op == api.OpMod) {
-		t.fall(api.TrapZero)
+	v, trap := Reckon(op, first, second)
+	if trap != 0 {
+		t.fall(trap)
 		return
 	}
-	t.put(reckoned(op, first, second))
+	t.put(v)
 }
 
 // call: the parameters lie on top already, and become the unit's first locals (promise I3).
