@@ -2,8 +2,8 @@ package verify
 
 import "yieldshape/api"
 
-// link is what is done with a box, or with another unit, by its number.
-type link struct{ op, to int }
+// link is what is done with a box, by its number.
+type link struct{ op, box int }
 
 // owners: no two tasks send to one box, nor receive from one.
 func (m module) owners() api.Where {
@@ -12,9 +12,9 @@ func (m module) owners() api.Where {
 		if u.Kind != api.DTask {
 			continue
 		}
-		links := map[link]int{}
-		m.gather(n, links)
-		for l := range links {
+		mine := map[link]int{}
+		Comes(m.Module, n, func(op, box int) { mine[link{op, box}]++ })
+		for l := range mine {
 			tasks[l]++
 		}
 	}
@@ -26,18 +26,20 @@ func (m module) owners() api.Where {
 	return api.Where{}
 }
 
-// gather notes the links of all code that somebody comes to from a unit on, whether it is ever reached or not.
-func (m module) gather(n int, links map[link]int) {
-	for _, c := range m.Units[n].Code {
-		l := link{c.Op, c.A}
-		switch c.Op {
-		case api.OpSend, api.OpRecv:
-			links[l]++
-		case api.OpCall, api.OpStart:
-			links[l]++
-			// Each unit is gone through once, so that this ends where units call each other in a circle.
-			if links[l] == 1 {
-				m.gather(c.A, links)
+// Comes calls tell with each OpSend and each OpRecv, and its box, of all code that somebody comes to from a unit on, whether it is ever reached or not. What the code of m calls and starts must be there, as Verify sees to it.
+func Comes(m api.Module, unit int, tell func(op, box int)) {
+	row := []int{unit}
+	met := map[int]int{unit: 1}
+	for i := 0; i < len(row); i++ {
+		for _, c := range m.Units[row[i]].Code {
+			switch c.Op {
+			case api.OpSend, api.OpRecv:
+				tell(c.Op, c.A)
+			case api.OpCall, api.OpStart:
+				// Each unit is gone through once, so that this ends where units call each other in a circle.
+				if met[c.A]++; met[c.A] == 1 {
+					row = append(row, c.A)
+				}
 			}
 		}
 	}
